@@ -461,7 +461,7 @@ func TestFirstAvoiding(t *testing.T) {
 	}
 }
 
-func sameCircles(t *testing.T, label string, got [][]int, want [][]int) {
+func sameLists(t *testing.T, label string, got [][]int, want [][]int) {
 	t.Helper()
 	if !slices.EqualFunc(got, want, slices.Equal) {
 		t.Errorf("%s = %v, want %v", label, got, want)
@@ -475,7 +475,7 @@ func TestCirclesOfAllPulses(t *testing.T) {
 			if 1 <= d && d < n {
 				want = walkedCircles(n, d)
 			}
-			sameCircles(t, fmt.Sprintf("CirclesOf(%d, %d)", n, d), impl.CirclesOf(n, d), want)
+			sameLists(t, fmt.Sprintf("CirclesOf(%d, %d)", n, d), impl.CirclesOf(n, d), want)
 		}
 	}
 }
@@ -494,7 +494,7 @@ func TestCirclesOf(t *testing.T) {
 		{6, 2, [][]int{{0, 2, 4}, {1, 3, 5}}}, {6, 4, [][]int{{0, 4, 2}, {1, 5, 3}}}, {9, 3, [][]int{{0, 3, 6}, {1, 4, 7}, {2, 5, 8}}}, {9, 6, [][]int{{0, 6, 3}, {1, 7, 4}, {2, 8, 5}}}, {10, 4, [][]int{{0, 4, 8, 2, 6}, {1, 5, 9, 3, 7}}}, {12, 8, [][]int{{0, 8, 4}, {1, 9, 5}, {2, 10, 6}, {3, 11, 7}}}, {12, 9, [][]int{{0, 9, 6, 3}, {1, 10, 7, 4}, {2, 11, 8, 5}}}, {16, 10, [][]int{{0, 10, 4, 14, 8, 2, 12, 6}, {1, 11, 5, 15, 9, 3, 13, 7}}}, {24, 16, [][]int{{0, 16, 8}, {1, 17, 9}, {2, 18, 10}, {3, 19, 11}, {4, 20, 12}, {5, 21, 13}, {6, 22, 14}, {7, 23, 15}}},
 		{0, 0, nil}, {0, 1, nil}, {1, 0, nil}, {1, 1, nil}, {2, 0, nil}, {2, 2, nil}, {2, 3, nil}, {6, 0, nil}, {6, 6, nil}, {6, 8, nil}, {6, -2, nil}, {-6, 2, nil}, {-6, -2, nil}, {24, 24, nil}, {24, 36, nil}, {25, 1, nil}, {25, 5, nil}, {25, 24, nil}, {48, 24, nil},
 	} {
-		sameCircles(t, fmt.Sprintf("CirclesOf(%d, %d)", c.n, c.d), impl.CirclesOf(c.n, c.d), c.want)
+		sameLists(t, fmt.Sprintf("CirclesOf(%d, %d)", c.n, c.d), impl.CirclesOf(c.n, c.d), c.want)
 	}
 }
 
@@ -528,7 +528,7 @@ func TestCirclesHaveAllPulses(t *testing.T) {
 func isNotAvoiding(t *testing.T, n int, d int) {
 	t.Helper()
 	sameInt(t, fmt.Sprintf("MostAvoiding(%d, %d)", n, d), impl.MostAvoiding(n, d), -1)
-	sameCircles(t, fmt.Sprintf("CirclesOf(%d, %d)", n, d), impl.CirclesOf(n, d), nil)
+	sameLists(t, fmt.Sprintf("CirclesOf(%d, %d)", n, d), impl.CirclesOf(n, d), nil)
 	areNotCounted(t, n, d)
 }
 
@@ -664,20 +664,23 @@ func TestReturnedFirstRhythmsAreNew(t *testing.T) {
 	}
 }
 
-// TestReturnedCirclesAreNew overwrites each list of a result and the memory behind it; all the others must keep their pulses.
 func TestReturnedCirclesAreNew(t *testing.T) {
 	for n, d := range sizesAndIntervals {
-		label := fmt.Sprintf("CirclesOf(%d, %d)", n, d)
-		kept := impl.CirclesOf(n, d)
-		want := walkedCircles(n, d)
-		for i := range want {
-			lists := impl.CirclesOf(n, d)
-			spoil(impl.Rhythm{Beats: lists[i]})
-			others := slices.Concat(lists[:i], lists[i+1:])
-			sameCircles(t, fmt.Sprintf("%s but the one with the index %d, which was changed", label, i), others, slices.Concat(want[:i], want[i+1:]))
-			clear(lists[:cap(lists)])
-		}
-		sameCircles(t, label+" after other results were changed", kept, want)
-		sameCircles(t, label+" once more", impl.CirclesOf(n, d), want)
+		listsAreNew(t, fmt.Sprintf("CirclesOf(%d, %d)", n, d), walkedCircles(n, d), func() [][]int { return impl.CirclesOf(n, d) })
 	}
+}
+
+// listsAreNew overwrites each list of a result and the memory behind it; all the others must keep their numbers.
+func listsAreNew(t *testing.T, label string, want [][]int, listed func() [][]int) {
+	t.Helper()
+	kept := listed()
+	for i := range want {
+		lists := listed()
+		spoil(impl.Rhythm{Beats: lists[i]})
+		others := slices.Concat(lists[:i], lists[i+1:])
+		sameLists(t, fmt.Sprintf("%s but the one with the index %d, which was changed", label, i), others, slices.Concat(want[:i], want[i+1:]))
+		clear(lists[:cap(lists)])
+	}
+	sameLists(t, label+" after other results were changed", kept, want)
+	sameLists(t, label+" once more", listed(), want)
 }

@@ -336,8 +336,8 @@ func hasNoLine(t *testing.T, bad []int) {
 	}
 }
 
-func TestListsThatAreNoPatterns(t *testing.T) {
-	for _, bad := range [][]int{
+func listsThatAreNoPatterns() [][]int {
+	lists := [][]int{
 		nil, {},
 		// The first one is not 0.
 		{1}, {2}, {12}, {13}, {-1}, {-12}, {1, 2}, {1, 2, 3}, {2, 4}, {5, 12}, {-1, 0}, {-1, 0, 1}, {-12, 0, 12}, numbersFrom1(13), {1, 0}, {12, 0},
@@ -349,13 +349,16 @@ func TestListsThatAreNoPatterns(t *testing.T) {
 		{0, -1}, {0, -1, 1}, {0, 1, -1}, {0, 2, -2}, {0, -12}, {0, 13}, {0, 1, 13}, {0, 12, 13}, {0, 14}, {0, 24}, {0, 25}, {0, 63}, {0, 64}, {0, 65}, {0, 128}, {0, 256}, {0, 257}, {0, 1000}, {0, 1, 2, 1000}, numbersUpTo(14), append(numbersUpTo(13), 14), append(numbersUpTo(12), 13),
 		// Long lists.
 		append(numbersUpTo(13), 12), append(numbersUpTo(13), 0), append(numbersUpTo(13), numbersUpTo(13)...), numbersUpTo(15), numbersUpTo(40), numbersUpTo(41), numbersUpTo(1000), numbersUpTo(100000), zeros(1000), zeros(100000), append([]int{0}, times(1, 100000)...), append([]int{0}, times(12, 100000)...), append([]int{0}, times(-1, 100000)...), times(13, 100000), append(numbersUpTo(13), times(12, 100000)...),
-	} {
-		hasNoLine(t, bad)
 	}
 	for _, great := range append(extremes(), 1<<32, 1<<32+1, 1<<32+12, -1<<32, -1<<32+1, 1<<62, 1<<62+1, -1<<62, -1<<62+1) {
-		for _, bad := range [][]int{{great}, {0, great}, {great, 0}, {great, 1}, {0, great, 1}, {0, 1, great}, {0, great, great}, {great, great + 1}, {0, 5, great, 12}, {great, -great}, {0, great, -great}, append(numbersUpTo(13), great), append([]int{great}, numbersFrom1(13)...)} {
-			hasNoLine(t, bad)
-		}
+		lists = append(lists, []int{great}, []int{0, great}, []int{great, 0}, []int{great, 1}, []int{0, great, 1}, []int{0, 1, great}, []int{0, great, great}, []int{great, great + 1}, []int{0, 5, great, 12}, []int{great, -great}, []int{0, great, -great}, append(numbersUpTo(13), great), append([]int{great}, numbersFrom1(13)...))
+	}
+	return lists
+}
+
+func TestListsThatAreNoPatterns(t *testing.T) {
+	for _, bad := range listsThatAreNoPatterns() {
+		hasNoLine(t, bad)
 	}
 }
 
